@@ -84,9 +84,18 @@ func agree(t *testing.T, next api.Tree) api.Errno {
 		checkParsed(t, next, l)
 	}
 	if e == api.OK {
+		checkReadRows(t, s, l)
 		checkLoaded(t, next, s)
 	}
 	return e
+}
+
+// checkReadRows asks for a text's rows to be those that are read of it: none begins with a blank.
+func checkReadRows(t *testing.T, s string, l []api.Row) {
+	t.Helper()
+	if again, f := rows.Read(s); !rows.Same(l, again) || f != (api.Fault{}) {
+		t.Fatalf("the rows of %.999q: %s, but read: %s, %v", s, shown(l), shown(again), f)
+	}
 }
 
 // checkText asks for a tree's text, and for its rows.
@@ -235,10 +244,37 @@ func TestLongScalars(t *testing.T) {
 		checkText(t, pairs(a, pairs(b, long), b, a), "a:\n  b: "+x.mark+"\n"+at(4)+"b: a\n")
 		checkText(t, pairs(a, anchored("y", pairs(b, named))), "a: &y\n  b: &x "+x.mark+"\n"+at(4))
 	}
-	// All lines that are not empty stand in one column, be there blanks ahead of them or not.
-	l, e := emit.Rows(pairs(a, leaf("\na\n  b\n\n")))
-	if !slices.Equal(l, []api.Row{{Text: "a: |+", At: 1}, {At: 2}, {Col: 2, Text: "a", At: 3}, {Col: 2, Text: "  b", At: 4}, {At: 5}}) || e != api.OK {
-		t.Error(l, e)
+}
+
+func TestRowsOfLinesThatBeginWithBlanks(t *testing.T) {
+	long := leaf("\na\n  b\n\n c # d\n")
+	for _, x := range []struct {
+		next  api.Tree
+		begin []api.Row
+		col   int
+	}{
+		{long, []api.Row{{Text: "|", At: 1}}, 2},
+		{anchored("x", long), []api.Row{{Text: "&x |", At: 1}}, 2},
+		{list(long), []api.Row{{Text: "- |", At: 1}}, 2},
+		{pairs(leaf("a"), anchored("x", long)), []api.Row{{Text: "a: &x |", At: 1}}, 2},
+		{list(list(long)), []api.Row{{Text: "- - |", At: 1}}, 4},
+		{pairs(leaf("a"), list(long)), []api.Row{{Text: "a:", At: 1}, {Col: 2, Text: "- |", At: 2}}, 4},
+	} {
+		first := len(x.begin)
+		want := append(x.begin, []api.Row{{At: first + 1}, {Col: x.col, Text: "a", At: first + 2}, {Col: x.col + 2, Text: "b", At: first + 3}, {At: first + 4}, {Col: x.col + 1, Text: "c # d", At: first + 5}}...)
+		if l, e := emit.Rows(x.next); !slices.Equal(l, want) || e != api.OK {
+			t.Errorf("Rows(%s): %v, %v, not %v", shown(x.next), l, e, want)
+		}
+		agree(t, x.next)
+	}
+	// A column may be greater than what a text holds.
+	far := 1 << 17
+	l, e := emit.Rows(leaf("a\n" + strings.Repeat(" ", far) + "b"))
+	if want := []api.Row{{Text: "|-", At: 1}, {Col: 2, Text: "a", At: 2}, {Col: far + 2, Text: "b", At: 3}}; !slices.Equal(l, want) || e != api.OK {
+		t.Error(shown(l), e)
+	}
+	for blanks := 65523; blanks < 65535; blanks++ {
+		agree(t, leaf("a\n"+strings.Repeat(" ", blanks)+"b"))
 	}
 }
 
@@ -269,11 +305,6 @@ func TestNumbersOfRows(t *testing.T) {
 		if row.At != i+1 {
 			t.Errorf("%d: %v", i, row)
 		}
-	}
-	// Where no line begins with a blank they are the rows that are read of the text.
-	s, _ := emit.Text(next)
-	if again, f := rows.Read(s); !rows.Same(l, again) || f != (api.Fault{}) {
-		t.Error(l, again, f)
 	}
 }
 

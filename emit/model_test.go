@@ -14,9 +14,9 @@ import (
 	"grommet/load"
 )
 
-// The chapter's words, written a second time: whole texts that are moved by putting a byte ahead of each line, with no rows and no columns; rows are got of the text at last. The numbers are the document's.
+// The chapter's words, written a second time: whole texts that are moved by putting a byte ahead of each line, with no rows and no columns; rows are got of the text at last, and their columns with it. The numbers are the document's.
 
-// indent is what the model puts ahead of lines, that no text has there.
+// indent is what the model puts ahead of lines, that no text has there, so that a beginning takes the place of just that.
 const indent = "\x00"
 
 // indented is a text whose lines stand two columns deeper; empty ones stand as they are.
@@ -81,7 +81,7 @@ func wantBehind(begin string, t api.Tree) string {
 func wantRows(text string) []api.Row {
 	var l []api.Row
 	for i, line := range strings.Split(text, "\n") {
-		bare := strings.TrimLeft(line, indent)
+		bare := strings.TrimLeft(line, indent+" ")
 		l = append(l, api.Row{Col: len(line) - len(bare), Text: bare, At: i + 1})
 	}
 	return l[:len(l)-1]

@@ -103,16 +103,16 @@ func (w *writer) entry(key, t api.Tree, col int, put func(text string)) {
 	})
 }
 
-// lines puts those of a long scalar.
+// lines puts those of a long scalar. Blanks at a line's beginning are its column's, as in each row.
 func (w *writer) lines(lines []string, col int) {
-	put, putEmpty := w.rowsAt(col), w.rowsAt(0)
 	for _, line := range lines {
-		if line == "" {
+		text := strings.TrimLeft(line, blank)
+		if text == "" {
 			// No blanks stand in a row that has nothing else.
-			putEmpty(line)
+			w.rowsAt(0)(text)
 			continue
 		}
-		put(line)
+		w.rowsAt(col + len(line) - len(text))(text)
 	}
 }
 
